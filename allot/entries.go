@@ -1,0 +1,66 @@
+package allot
+
+import (
+	"slices"
+	"strconv"
+
+	"quarterday/api"
+	"quarterday/ledger"
+	"quarterday/money"
+)
+
+// refHead is what a Ref begins with, ahead of the pool's number.
+const refHead = "allot-"
+
+// Entries that give out.
+func Entries(c []api.Account, l []api.Pool, b []api.Balance, entity, period int) ([]api.Entry, error) {
+	if err := Check(c, l); err != nil {
+		return nil, err
+	}
+	if err := ledger.Check(b); err != nil {
+		return nil, err
+	}
+	if !isUpTo(entity, api.MaxEntity) || !isUpTo(period, api.MaxPeriod) {
+		return nil, api.ErrRange
+	}
+	var made []api.Entry
+	for i, p := range l {
+		has := inPool(b, entity, p)
+		if has == 0 { // there is no balance, because none is 0
+			continue
+		}
+		lines, err := givenOut(p, has)
+		if err != nil {
+			return nil, err
+		}
+		made = append(made, api.Entry{Ref: refHead + strconv.Itoa(i), Entity: entity, Period: period, Lines: lines})
+	}
+	return made, nil
+}
+
+// inPool is what an entity has in the account and currency of a pool, 0 where there is no balance of it.
+func inPool(b []api.Balance, entity int, p api.Pool) int {
+	i := slices.IndexFunc(b, func(x api.Balance) bool {
+		return x.Entity == entity && x.Account == p.Account && x.Cur == p.Cur
+	})
+	if i < 0 {
+		return 0
+	}
+	return b[i].Amount
+}
+
+// givenOut has the lines by which a pool gives out what it has, which is not 0.
+func givenOut(p api.Pool, has int) ([]api.Line, error) {
+	if !isWithin(has, api.MaxAmount) {
+		return nil, api.ErrRange
+	}
+	shares, err := money.Shares(has, p.Weights)
+	if err != nil {
+		return nil, err
+	}
+	lines := []api.Line{{Account: p.Account, Cur: p.Cur, Amount: -has}}
+	for i, code := range p.To {
+		lines = append(lines, api.Line{Account: code, Cur: p.Cur, Amount: shares[i]})
+	}
+	return slices.DeleteFunc(lines, func(n api.Line) bool { return n.Amount == 0 }), nil
+}
