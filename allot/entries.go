@@ -5,6 +5,7 @@ import (
 	"strconv"
 
 	"quarterday/api"
+	"quarterday/entry"
 	"quarterday/ledger"
 	"quarterday/money"
 )
@@ -20,7 +21,7 @@ func Entries(c []api.Account, l []api.Pool, b []api.Balance, entity, period int)
 	if err := ledger.Check(b); err != nil {
 		return nil, err
 	}
-	if !isUpTo(entity, api.MaxEntity) || !isUpTo(period, api.MaxPeriod) {
+	if !entry.IsEntity(entity) || !entry.IsPeriod(period) {
 		return nil, api.ErrRange
 	}
 	var made []api.Entry
@@ -51,7 +52,7 @@ func inPool(b []api.Balance, entity int, p api.Pool) int {
 
 // givenOut has the lines by which a pool gives out what it has, which is not 0.
 func givenOut(p api.Pool, has int) ([]api.Line, error) {
-	if !isWithin(has, api.MaxAmount) {
+	if !entry.IsAmount(has) {
 		return nil, api.ErrRange
 	}
 	shares, err := money.Shares(has, p.Weights)

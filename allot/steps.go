@@ -4,6 +4,7 @@ import (
 	"slices"
 
 	"quarterday/api"
+	"quarterday/entry"
 	"quarterday/money"
 )
 
@@ -33,7 +34,7 @@ func checkSteps(weights [][]int, amounts []int) error {
 	for i, row := range weights {
 		// Those of its own and of the ones ahead too, though nothing is given by them.
 		isWrong := func(w int) bool { return w < 0 || w > api.MaxRatio }
-		if slices.ContainsFunc(row, isWrong) || !isWithin(amounts[i], api.MaxAmount) {
+		if slices.ContainsFunc(row, isWrong) || !entry.IsAmount(amounts[i]) {
 			return api.ErrRange
 		}
 	}

@@ -21,6 +21,24 @@ func Leaves(l []api.Account) ([]string, error) {
 	return codes, nil
 }
 
+// LeafCheck gives what tells why a code is no leaf's (ErrNone: there is no such account; ErrKind: others are under it), or says what is wrong with the chart. The leaves are looked for once, for all codes that are asked.
+func LeafCheck(l []api.Account) (func(code string) error, error) {
+	leaves, err := Leaves(l)
+	if err != nil {
+		return nil, err
+	}
+	own := slices.Clone(l) // a list that is handed in is not kept
+	return func(code string) error {
+		if index(own, code) < 0 {
+			return api.ErrNone
+		}
+		if !slices.Contains(leaves, code) {
+			return api.ErrKind
+		}
+		return nil
+	}, nil
+}
+
 // Under gives an account and all that is under it.
 func Under(l []api.Account, code string) ([]string, error) {
 	if _, err := place(l, code); err != nil {

@@ -48,6 +48,31 @@ func TestC3Leaves(t *testing.T) {
 	}
 }
 
+// TestC3LeafCheck: it tells of every code, says first what is wrong with a chart, and does not keep the list.
+func TestC3LeafCheck(t *testing.T) {
+	l := house()
+	checkLeaf, err := chart.LeafCheck(l)
+	told(t, "LeafCheck", err, api.OK)
+	clear(l)
+	for _, a := range house() {
+		want := api.OK
+		if a.Code == "1" || a.Code == "10" || a.Code == "5" {
+			want = api.ErrKind
+		}
+		told(t, "leaf "+a.Code, checkLeaf(a.Code), want)
+	}
+	for _, code := range []string{"", "-", "0", "01", "1 ", "12", "1000", "6", "till-1", "x", "1\x00"} {
+		told(t, fmt.Sprintf("leaf %q", code), checkLeaf(code), api.ErrNone)
+	}
+	for i, c := range wrong {
+		none, err := chart.LeafCheck(c.l)
+		told(t, fmt.Sprint(i, ": LeafCheck"), err, c.err)
+		if none != nil {
+			t.Errorf("%d: LeafCheck gives something with an error", i)
+		}
+	}
+}
+
 func TestC3Under(t *testing.T) {
 	for _, c := range []struct {
 		l    []api.Account

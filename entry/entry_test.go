@@ -148,6 +148,20 @@ func TestE1CheckEntityPeriod(t *testing.T) {
 	}
 }
 
+// TestE1Bounds: what tells entities, periods and amounts, just at and just past their bounds.
+func TestE1Bounds(t *testing.T) {
+	for n, want := range map[int][3]bool{
+		least: {}, most: {},
+		-big15 - 1: {}, -big15: {2: true}, big15: {2: true}, big15 + 1: {},
+		-1: {2: true}, 0: {2: true}, 1: {true, true, true}, 12: {true, true, true},
+		13: {1: true, 2: true}, 120: {1: true, 2: true}, 121: {2: true},
+	} {
+		if got := [3]bool{entry.IsEntity(n), entry.IsPeriod(n), entry.IsAmount(n)}; got != want {
+			t.Errorf("%d is entity, period, amount: %v, want %v", n, got, want)
+		}
+	}
+}
+
 func TestE1CheckHowMany(t *testing.T) {
 	for _, c := range []struct {
 		l   []api.Line

@@ -45,7 +45,7 @@ func checkAmounts(l []api.Line) error {
 	if len(l) > api.MaxLines {
 		return api.ErrFull
 	}
-	if slices.ContainsFunc(l, func(n api.Line) bool { return !isAmount(n.Amount) }) {
+	if slices.ContainsFunc(l, func(n api.Line) bool { return !IsAmount(n.Amount) }) {
 		return api.ErrRange
 	}
 	return nil
