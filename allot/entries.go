@@ -26,7 +26,7 @@ func Entries(c []api.Account, l []api.Pool, b []api.Balance, entity, period int)
 	}
 	var made []api.Entry
 	for i, p := range l {
-		has := inPool(b, entity, p)
+		has := ledger.Has(b, entity, p.Account, p.Cur)
 		if has == 0 { // there is no balance, because none is 0
 			continue
 		}
@@ -37,17 +37,6 @@ func Entries(c []api.Account, l []api.Pool, b []api.Balance, entity, period int)
 		made = append(made, api.Entry{Ref: refHead + strconv.Itoa(i), Entity: entity, Period: period, Lines: lines})
 	}
 	return made, nil
-}
-
-// inPool is what an entity has in the account and currency of a pool, 0 where there is no balance of it.
-func inPool(b []api.Balance, entity int, p api.Pool) int {
-	i := slices.IndexFunc(b, func(x api.Balance) bool {
-		return x.Entity == entity && x.Account == p.Account && x.Cur == p.Cur
-	})
-	if i < 0 {
-		return 0
-	}
-	return b[i].Amount
 }
 
 // givenOut has the lines by which a pool gives out what it has, which is not 0.

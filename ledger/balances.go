@@ -28,6 +28,17 @@ func Check(l []api.Balance) error {
 	return nil
 }
 
+// Has is what an entity has in an account and a currency, 0 where there is no balance of it.
+func Has(l []api.Balance, entity int, account, cur string) int {
+	i := slices.IndexFunc(l, func(b api.Balance) bool {
+		return b.Entity == entity && b.Account == account && b.Cur == cur
+	})
+	if i < 0 {
+		return 0
+	}
+	return l[i].Amount
+}
+
 // Merge adds balances to others.
 func Merge(a, b []api.Balance) ([]api.Balance, error) {
 	p := parts{}

@@ -273,3 +273,20 @@ func TestG2MergeOver(t *testing.T) {
 	unmerged(t, a, b, api.ErrFull) // named ahead
 	unmerged(t, a, b[:199], api.ErrOver)
 }
+
+// TestG2Has: what just that entity has in just that account and currency.
+func TestG2Has(t *testing.T) {
+	l := []api.Balance{bal(-1, "", "", 5), bal(1, "10", "EUR", 7), bal(1, "10", "USD", -8), bal(1, "100", "EUR", 9), bal(2, "10", "EUR", most)}
+	for i, b := range l {
+		if got := ledger.Has(l, b.Entity, b.Account, b.Cur); got != b.Amount {
+			t.Errorf("Has of %v = %d", b, got)
+		}
+		others := slices.Delete(slices.Clone(l), i, i+1)
+		if got := ledger.Has(others, b.Entity, b.Account, b.Cur); got != 0 {
+			t.Errorf("Has of %v among others = %d", b, got)
+		}
+	}
+	if got := ledger.Has(nil, 1, "10", "EUR"); got != 0 {
+		t.Errorf("Has of none = %d", got)
+	}
+}
