@@ -1,6 +1,8 @@
 package log
 
 import (
+	"bytes"
+
 	"quarterday/api"
 	"quarterday/block"
 )
@@ -106,14 +108,25 @@ func (a area) readPiece(at int) (piece, bool) {
 	return p, true
 }
 
-// writePiece writes a piece into its block.
-func (a area) writePiece(p piece) error {
+// block is a piece as it is written.
+func (p piece) block() []byte {
 	many := byte(len(p.bytes))
 	if p.first {
 		many |= marked
 	}
 	b := append(addWord([]byte{byte(p.number)}, p.sitting), many)
-	return a.disk.Write(a.from+p.at, append(b, p.bytes...))
+	return append(b, p.bytes...)
+}
+
+// writePiece writes a piece into its block.
+func (a area) writePiece(p piece) error {
+	return a.disk.Write(a.from+p.at, p.block())
+}
+
+// has tells whether a piece stands in its block.
+func (a area) has(p piece) bool {
+	b, err := a.disk.Read(a.from + p.at)
+	return err == nil && bytes.HasPrefix(b, p.block())
 }
 
 // newest is the last sitting of which there is a piece, or the one ahead of those that count.

@@ -499,6 +499,24 @@ func TestL1SyncAnyhow(t *testing.T) {
 	}
 }
 
+// TestL1FewSteps: a Log opened behind a Crash only writes, and a Sync writes nothing that is there already: so a disk that stops soon has much of it.
+func TestL1FewSteps(t *testing.T) {
+	p := whole(t, 12)
+	p.format(t)
+	p.d.Crash(nil, 0)
+	l := p.open(t)
+	var list []string
+	for n := range 3 {
+		add(t, l, &list, text(58, n))
+	}
+	sync(t, l)
+	if p.d.Steps() != 4 {
+		t.Errorf("3 records of a block each, and a Sync, take %d steps", p.d.Steps())
+	}
+	p.d.Crash(nil, 0)
+	p.finds(t, list)
+}
+
 // ofNoUse fails the test where a Log does something behind an error of the disk; what it had it still tells.
 func (p place) ofNoUse(t *testing.T, l *log.Log, list []string) {
 	t.Helper()
