@@ -285,6 +285,31 @@ func TestV1Which(t *testing.T) {
 	}
 }
 
+// TestV1CheckAsked: what is wrong with what is asked, in Worth's order, whatever the balances' entities and currencies are.
+func TestV1CheckAsked(t *testing.T) {
+	right := []api.Balance{bal(-1, "", "none", 1), bal(1, "10", "NOK", 1), bal(12, "10", "BIG", big18), bal(13, "10", "EUR", 1)}
+	asked := func(l []api.Rate, base string, b []api.Balance, period int, want api.Errno) {
+		t.Helper()
+		if got := plain.Told(revalue.CheckAsked(l, base, b, period)); got != want {
+			t.Errorf("CheckAsked of %s in %q, %d by %s = %v, want %v", short(b), base, period, short(l), got, want)
+		}
+	}
+	for _, period := range []int{1, 2, 120} {
+		asked(market(), "EUR", right, period, api.OK)
+		asked(nil, "ZZZ", nil, period, api.OK)
+	}
+	for _, b := range wrongBalances() {
+		asked(wrongRates()[0], "", b, 0, plain.Told(ledger.Check(b)))
+	}
+	for _, l := range wrongRates() {
+		asked(l, "", right, 0, plain.Told(rate.Check(l)))
+	}
+	asked(market(), "", right, 0, api.ErrSyntax)
+	for _, period := range []int{0, -1, 121, most, least} {
+		asked(market(), "EUR", right, period, api.ErrRange)
+	}
+}
+
 // TestV1MaxItems: as many balances, and rates, as may be.
 func TestV1MaxItems(t *testing.T) {
 	var b []api.Balance
