@@ -114,6 +114,9 @@ func TestE1CheckRef(t *testing.T) {
 		e := ent(two()...)
 		e.Ref = c.s
 		told(t, fmt.Sprintf("Check of ref %.20q", c.s), entry.Check(house(), e), errIf(c.ok))
+		if got := entry.IsRef(c.s); got != c.ok {
+			t.Errorf("%.20q is a Ref: %v, want %v", c.s, got, c.ok)
+		}
 	}
 }
 
@@ -128,6 +131,9 @@ func TestE1CheckRefOfAllBytes(t *testing.T) {
 			told(t, fmt.Sprintf("Check of ref %q", ref), entry.Check(house(), e), errIf(form.MatchString(ref)))
 			_, err := entry.Reverse(e, ref)
 			told(t, fmt.Sprintf("Reverse to ref %q", ref), err, errIf(form.MatchString(ref)))
+			if got := entry.IsRef(ref); got != form.MatchString(ref) {
+				t.Errorf("%q is a Ref: %v", ref, got)
+			}
 		}
 	}
 }

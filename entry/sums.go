@@ -17,7 +17,7 @@ func Sums(e api.Entry) ([]api.Line, error) {
 
 // Reverse turns an entry round.
 func Reverse(e api.Entry, ref string) (api.Entry, error) {
-	if !isRef(ref) {
+	if !IsRef(ref) {
 		return api.Entry{}, api.ErrSyntax
 	}
 	if err := checkAmounts(e.Lines); err != nil {
